@@ -101,21 +101,26 @@ func mustNotBehind(t *testing.T, n int, m int, base int) {
 	}
 }
 
-// mustRefuse fails unless a function of a number and a base answers -1 to all that are none.
-func mustRefuse(t *testing.T, name string, f func(n int, base int) int) {
-	t.Helper()
+// eachNoNumber calls for numbers and bases of which at least one is none.
+func eachNoNumber(f func(n int, base int)) {
 	eachBase(func(base int) {
 		for _, n := range badWholes {
-			if got := f(n, base); got != -1 {
-				t.Fatalf("%s(%d, %d) = %d, not -1", name, n, base, got)
-			}
+			f(n, base)
 		}
 	})
 	for _, base := range badBases {
 		for _, n := range []int{-1, 0, 1, 5, 12, 1000000000, 1000000001} {
-			if got := f(n, base); got != -1 {
-				t.Fatalf("%s(%d, %d) = %d, not -1", name, n, base, got)
-			}
+			f(n, base)
 		}
 	}
+}
+
+// mustRefuse fails unless a function of a number and a base answers -1 to all that are none.
+func mustRefuse(t *testing.T, name string, f func(n int, base int) int) {
+	t.Helper()
+	eachNoNumber(func(n int, base int) {
+		if got := f(n, base); got != -1 {
+			t.Fatalf("%s(%d, %d) = %d, not -1", name, n, base, got)
+		}
+	})
 }
